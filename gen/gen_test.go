@@ -197,9 +197,6 @@ func wantFormError(t *testing.T, about string, s api.Shape) {
 	}
 }
 
-// forget makes the matrices be made anew, as in a program that has just begun.
-func forget() { made = [api.MaxData][api.MaxParity + 1]kept{} }
-
 // P5.1: the limits are those of the document.
 func TestLimits(t *testing.T) {
 	if api.MaxData != 4 || api.MaxParity != 2 || api.ErrGenForm != 500 {
@@ -358,7 +355,6 @@ func TestRowsAreApart(t *testing.T) {
 // R4, R5: the same shape, asked again behind an answer that was written over, has the same answer as it had.
 func TestAskedAgain(t *testing.T) {
 	for _, s := range shapes() {
-		forget()
 		for range 4 {
 			m := ask(t, s)
 			if !equal(m, known()[s]) {
@@ -373,7 +369,6 @@ func TestAskedAgain(t *testing.T) {
 func TestAnswersStay(t *testing.T) {
 	for _, s := range shapes() {
 		for _, other := range shapes() {
-			forget()
 			ahead := ask(t, other)
 			m := ask(t, s)
 			behind := ask(t, other)
@@ -390,7 +385,6 @@ func TestAnswersStay(t *testing.T) {
 func TestAnswersDoNotHangTogether(t *testing.T) {
 	for _, s := range shapes() {
 		for _, other := range slices.Concat(shapes(), wrongShapes()) {
-			forget()
 			m, _ := Matrix(other)
 			spoil(m)
 			wantMatrix(t, "R5", s, known()[s])
@@ -401,10 +395,9 @@ func TestAnswersDoNotHangTogether(t *testing.T) {
 	}
 }
 
-// R5: the same from several goroutines at one time, the first asked among them; each writes over its answers.
+// R5: the same from several goroutines at one time; each writes over its answers.
 func TestAtOneTime(t *testing.T) {
 	for range 20 {
-		forget()
 		var all sync.WaitGroup
 		for range 8 {
 			all.Go(func() {
