@@ -11,6 +11,7 @@ import (
 	"unsafe"
 
 	"ossuary/api"
+	"ossuary/sample"
 )
 
 const (
@@ -80,28 +81,9 @@ func answersOf(s string, path []int, a api.Ask) (answers []api.Answer) {
 	return answers
 }
 
-// numbers makes a function that tells number behind number, from 0 to 2^32 - 1, unlike from seed to seed.
-func numbers(seed int) func() int {
-	x := uint64(seed)*2654435761 + 1
-	return func() int {
-		x = x*6364136223846793005 + 1442695040888963407
-		return int(x >> 32)
-	}
-}
-
-// text makes one of length bytes, unlike from seed to seed.
-func text(seed, length int) string {
-	next := numbers(seed)
-	b := make([]byte, length)
-	for i := range b {
-		b[i] = byte(next())
-	}
-	return string(b)
-}
-
 // row makes count numbers from 0 below a bound, unlike from seed to seed.
 func row(seed, count, below int) []int {
-	next := numbers(seed)
+	next := sample.Numbers(seed)
 	all := make([]int, count)
 	for i := range all {
 		all[i] = next() % below
@@ -120,7 +102,7 @@ func with(all []int, at, other int) []int {
 
 // ask makes a question of count blocks, unlike from seed to seed.
 func ask(seed, count int) api.Ask {
-	return api.Ask{Nonce: numbers(seed)() % prime, Blocks: row(seed+1, count, 4)}
+	return api.Ask{Nonce: sample.Numbers(seed)() % prime, Blocks: row(seed+1, count, 4)}
 }
 
 // outsides tells numbers that no nonce may be, nor a number of a path.
@@ -138,7 +120,7 @@ func noBlocks() []int {
 
 // turns tells how far a number may be turned so that it is another one below Prime.
 func turns(seed int) []int {
-	return []int{1, 2, 911, base, 1 << 30, prime - 2, prime - 1, numbers(seed)()%(prime-1) + 1}
+	return []int{1, 2, 911, base, 1 << 30, prime - 2, prime - 1, sample.Numbers(seed)()%(prime-1) + 1}
 }
 
 // audited is a question of Check, and what who has the shard would answer it by.
@@ -163,7 +145,7 @@ func right(texts []string, shard int, a api.Ask) audited {
 // texts makes count shards, unlike from seed to seed.
 func texts(seed, count int) (all []string) {
 	for i := range count {
-		all = append(all, text(100*seed+i, 32))
+		all = append(all, sample.Text(100*seed+i, 32))
 	}
 	return all
 }
@@ -287,7 +269,7 @@ func TestRespondOfEachCount(t *testing.T) {
 	for count := 1; count <= 64; count++ {
 		for length := range 4 {
 			seed := 10*count + length
-			s, path, a := text(seed, 32), row(seed, length, prime), ask(seed, count)
+			s, path, a := sample.Text(seed, 32), row(seed, length, prime), ask(seed, count)
 			wantAnswers(t, "P12.1: each count", s, path, a, answersOf(s, path, a))
 		}
 	}
@@ -295,7 +277,7 @@ func TestRespondOfEachCount(t *testing.T) {
 
 // P12.1: each choice of three blocks, in each order, the same one twice and three times too.
 func TestRespondOfEachChoice(t *testing.T) {
-	s, path := text(1, 32), row(1, 2, prime)
+	s, path := sample.Text(1, 32), row(1, 2, prime)
 	for i := range 64 {
 		a := api.Ask{Nonce: 5, Blocks: []int{i % 4, i / 4 % 4, i / 16}}
 		wantAnswers(t, "P12.1: each choice", s, path, a, answersOf(s, path, a))
@@ -308,7 +290,7 @@ func TestRespondOfEachChoice(t *testing.T) {
 
 // P12.1: the least and the greatest nonce, and numbers of a path, that may be.
 func TestRespondOfEnds(t *testing.T) {
-	s := text(2, 32)
+	s := sample.Text(2, 32)
 	for _, number := range []int{0, 1, 2, 911, base, 1 << 30, prime - 2, prime - 1} {
 		a := api.Ask{Nonce: number, Blocks: []int{3, 1, 1, 0, 2}}
 		for length := range 4 {
@@ -338,12 +320,12 @@ func TestRespondOfEachByte(t *testing.T) {
 func TestRespondOfNoShard(t *testing.T) {
 	for _, length := range []int{0, 1, 7, 8, 16, 24, 30, 31, 33, 34, 40, 48, 63, 64, 65, 256, 4096, 1 << 20} {
 		for count := range 4 {
-			wantForm(t, "P12.1: no shard", text(length, length), row(1, count, prime), ask(count, count+1))
+			wantForm(t, "P12.1: no shard", sample.Text(length, length), row(1, count, prime), ask(count, count+1))
 		}
 	}
 	for length := range 100 {
 		if length != 32 {
-			wantForm(t, "P12.1: no shard", text(length, length), nil, api.Ask{Blocks: []int{0}})
+			wantForm(t, "P12.1: no shard", sample.Text(length, length), nil, api.Ask{Blocks: []int{0}})
 		}
 	}
 	wantForm(t, "P12.1: letters are not counted", strings.Repeat("ä", 32), nil, api.Ask{Blocks: []int{0}})
@@ -352,8 +334,8 @@ func TestRespondOfNoShard(t *testing.T) {
 // P12.1: a path of more than MaxPath numbers.
 func TestRespondOfLongPath(t *testing.T) {
 	for _, length := range []int{4, 5, 6, 7, 64, 65, 1 << 16} {
-		wantForm(t, "P12.1: a long path", text(1, 32), row(length, length, prime), ask(1, 3))
-		wantForm(t, "P12.1: a long path", text(1, 32), alike(0, length), ask(1, 3))
+		wantForm(t, "P12.1: a long path", sample.Text(1, 32), row(length, length, prime), ask(1, 3))
+		wantForm(t, "P12.1: a long path", sample.Text(1, 32), alike(0, length), ask(1, 3))
 	}
 }
 
@@ -361,9 +343,9 @@ func TestRespondOfLongPath(t *testing.T) {
 func TestRespondOfPathOutside(t *testing.T) {
 	for _, number := range outsides() {
 		for length := 1; length <= 3; length++ {
-			wantForm(t, "P12.1: all outside", text(1, 32), alike(number, length), ask(1, 3))
+			wantForm(t, "P12.1: all outside", sample.Text(1, 32), alike(number, length), ask(1, 3))
 			for at := range length {
-				wantForm(t, "P12.1: a number outside", text(1, 32), with(row(at, length, prime), at, number), ask(1, 3))
+				wantForm(t, "P12.1: a number outside", sample.Text(1, 32), with(row(at, length, prime), at, number), ask(1, 3))
 			}
 		}
 	}
@@ -391,20 +373,20 @@ func noAsks() (none []api.Ask) {
 // P12.1: questions that may not be.
 func TestRespondOfNoAsk(t *testing.T) {
 	for i, a := range noAsks() {
-		wantForm(t, "P12.1: no question", text(i, 32), row(i, i%4, prime), a)
+		wantForm(t, "P12.1: no question", sample.Text(i, 32), row(i, i%4, prime), a)
 	}
 }
 
 // P12.1: several faults at one time are one.
 func TestRespondOfSeveralFaults(t *testing.T) {
 	for _, a := range noAsks() {
-		wantForm(t, "P12.1: several faults", text(1, 31), []int{-1, prime, 3, 4}, a)
+		wantForm(t, "P12.1: several faults", sample.Text(1, 31), []int{-1, prime, 3, 4}, a)
 	}
 }
 
 // P12.1, P12.2: what is refused says which part of it is, and wraps the error that is answered.
 func TestRefusalsWrap(t *testing.T) {
-	s, fine := text(1, 32), api.Ask{Nonce: 5, Blocks: []int{0}}
+	s, fine := sample.Text(1, 32), api.Ask{Nonce: 5, Blocks: []int{0}}
 	for _, c := range []struct {
 		err  error
 		want string
@@ -657,7 +639,7 @@ func TestCheckOfAnotherNonce(t *testing.T) {
 // P12.2: a byte of one block is turned, by whoever has kept path and keyed seal.
 func TestCheckOfTurnedByte(t *testing.T) {
 	each(func(p audited) {
-		next := numbers(p.root)
+		next := sample.Numbers(p.root)
 		for place := range 8 {
 			for _, by := range []byte{1, 2, 0x80, 0xff, byte(1 + next()%255)} {
 				wantFalseOther(t, "P12.2: a byte turned", p, func(x *api.Answer) {
@@ -697,7 +679,7 @@ func TestCheckOfAnotherLengthOfBlock(t *testing.T) {
 			wantFalseOther(t, "P12.2: a shorter block", p, func(x *api.Answer) { x.Block = x.Block[:length] })
 			wantFalseOther(t, "P12.2: a shorter block, at the first", p, func(x *api.Answer) { x.Block = x.Block[8-length:] })
 		}
-		for _, more := range []string{"\x00", "\xff", "a", text(1, 8), text(1, 24), text(1, 1<<10)} {
+		for _, more := range []string{"\x00", "\xff", "a", sample.Text(1, 8), sample.Text(1, 24), sample.Text(1, 1<<10)} {
 			wantFalseOther(t, "P12.2: a longer block", p, func(x *api.Answer) { x.Block += more })
 			wantFalseOther(t, "P12.2: a longer block, at the first", p, func(x *api.Answer) { x.Block = more + x.Block })
 		}
@@ -707,7 +689,7 @@ func TestCheckOfAnotherLengthOfBlock(t *testing.T) {
 // P12.2: a block of another length is none, even where path and keyed seal are right of it.
 func TestCheckOfAnotherLengthUpToItsRoot(t *testing.T) {
 	for length := range 100 {
-		block := text(length, length)
+		block := sample.Text(length, length)
 		for at := range 4 {
 			leaves := with(row(length, 4, prime), at, sealOf(block))
 			for count := 1; count <= 6; count++ {
@@ -838,7 +820,7 @@ func follow(p audited, at int, path []int) int {
 
 // P12.2: questions by chance, of small numbers too, whose right root is asked for, and the one beside it.
 func TestManyQuestions(t *testing.T) {
-	next := numbers(5)
+	next := sample.Numbers(5)
 	for i := range 20000 {
 		p := audited{shards: 1 + next()%6, ask: api.Ask{Nonce: next() >> (next() % 32) % prime, Blocks: []int{next() % 4}}}
 		p.shard = next() % p.shards
@@ -846,7 +828,7 @@ func TestManyQuestions(t *testing.T) {
 		for i := range path {
 			path[i] = next() >> (next() % 32) % prime
 		}
-		block := text(i, 8)
+		block := sample.Text(i, 8)
 		p.answers = []api.Answer{{Block: block, Path: path, Keyed: pairOf(p.ask.Nonce, sealOf(block))}}
 		p.root = follow(p, 0, path)
 		wantTrue(t, "P12.2: by chance", p)
@@ -859,8 +841,8 @@ func TestManyQuestions(t *testing.T) {
 func TestVeryLong(t *testing.T) {
 	long, numbers := strings.Repeat("x", 1<<22), alike(1, 1<<20)
 	wantForm(t, "R1: a very long text", long, nil, api.Ask{Blocks: []int{0}})
-	wantForm(t, "R1: a very long path", text(1, 32), numbers, api.Ask{Blocks: []int{0}})
-	wantForm(t, "R1: very many blocks", text(1, 32), nil, api.Ask{Blocks: numbers})
+	wantForm(t, "R1: a very long path", sample.Text(1, 32), numbers, api.Ask{Blocks: []int{0}})
+	wantForm(t, "R1: very many blocks", sample.Text(1, 32), nil, api.Ask{Blocks: numbers})
 	each(func(p audited) {
 		wantFalseOther(t, "R1: a very long block", p, func(x *api.Answer) { x.Block = long })
 		wantFalseOther(t, "R1: a very long path", p, func(x *api.Answer) { x.Path = numbers })
@@ -889,7 +871,7 @@ func wantStays(t *testing.T, about string, do func(), rows ...[]int) {
 
 // R4: what Respond is handed in is as it was, its spare room too, whether it is taken or refused.
 func TestRespondLeavesAsItWas(t *testing.T) {
-	s := text(1, 32)
+	s := sample.Text(1, 32)
 	for count := range 66 {
 		for length := range 5 {
 			path, blocks := row(count, length+9, prime), row(length, count+9, 4)
@@ -947,7 +929,7 @@ func overwrite(answers []api.Answer) {
 func TestAnswersApart(t *testing.T) {
 	for count := 1; count <= 64; count++ {
 		for length := range 4 {
-			s, path, a := text(count, 32), row(length, length+9, prime), ask(count, count)
+			s, path, a := sample.Text(count, 32), row(length, length+9, prime), ask(count, count)
 			want := answersOf(s, path[:length], a)
 			again, _ := Respond(s, path[:length], a)
 			wantStays(t, "answers written over", func() {
@@ -966,7 +948,7 @@ func TestAnswersApart(t *testing.T) {
 func TestPathsApart(t *testing.T) {
 	for _, a := range []api.Ask{{Nonce: 1, Blocks: []int{2, 2, 2, 0, 0, 1, 3, 2}}, ask(1, 64)} {
 		for length := range 4 {
-			s, path := text(1, 32), row(1, length, prime)
+			s, path := sample.Text(1, 32), row(1, length, prime)
 			want := answersOf(s, path, a)
 			for at := range want {
 				answers, _ := Respond(s, path, a)
@@ -983,7 +965,7 @@ func TestPathsApart(t *testing.T) {
 // R4: what is handed in, written over behind a call, doesn't turn what was answered, and is not kept.
 func TestHandedInNotKept(t *testing.T) {
 	for count := 1; count <= 64; count++ {
-		s, path, a := text(count, 32), row(count, 3, prime), ask(count, count)
+		s, path, a := sample.Text(count, 32), row(count, 3, prime), ask(count, count)
 		want := answersOf(s, path, a)
 		answers, _ := Respond(s, path, a)
 		copy(path, row(-count, 3, prime))
@@ -1000,7 +982,7 @@ func TestHandedInNotKept(t *testing.T) {
 
 // R4: the blocks that are answered share no bytes with the shard, nor with one another.
 func TestBlocksApart(t *testing.T) {
-	s := text(1, 32)
+	s := sample.Text(1, 32)
 	from := uintptr(unsafe.Pointer(unsafe.StringData(s)))
 	answers, _ := Respond(s, nil, api.Ask{Nonce: 1, Blocks: []int{0, 3, 3, 1, 2, 3, 0}})
 	for i, a := range answers {
@@ -1041,7 +1023,7 @@ func TestAskedAgain(t *testing.T) {
 		wrong := p
 		wrong.root = (p.root + 1) % prime
 		for other := range 5 {
-			Respond(text(other, 32), row(other, 3-other%4, prime), ask(other, 1+other))
+			Respond(sample.Text(other, 32), row(other, 3-other%4, prime), ask(other, 1+other))
 			wantForm(t, "R5: between", p.text, p.path, api.Ask{Nonce: -1, Blocks: p.ask.Blocks})
 			wantForm(t, "R5: between", p.text[other+1:], p.path, p.ask)
 			wantAnswers(t, "R5: asked again", p.text, p.path, p.ask, p.answers)

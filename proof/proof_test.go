@@ -7,6 +7,7 @@ import (
 	"testing"
 
 	"ossuary/api"
+	"ossuary/sample"
 	"ossuary/tree"
 )
 
@@ -71,18 +72,9 @@ func follow(p proven) (root int, ends bool) {
 	return root, len(path) == 0
 }
 
-// numbers makes a function that tells number behind number, from 0 to 2^32 - 1, unlike from seed to seed.
-func numbers(seed int) func() int {
-	x := uint64(seed)*2654435761 + 1
-	return func() int {
-		x = x*6364136223846793005 + 1442695040888963407
-		return int(x >> 32)
-	}
-}
-
 // leaves makes count that may be, unlike from seed to seed.
 func leaves(seed, count int) []int {
-	next := numbers(seed)
+	next := sample.Numbers(seed)
 	all := make([]int, count)
 	for i := range all {
 		all[i] = next() % prime
@@ -118,7 +110,7 @@ func outsides() []int {
 
 // turns tells how far a number may be turned so that it is another one below Prime.
 func turns(seed int) []int {
-	return []int{1, 2, 911, base, 1 << 30, prime - 2, prime - 1, numbers(seed)()%(prime-1) + 1}
+	return []int{1, 2, 911, base, 1 << 30, prime - 2, prime - 1, sample.Numbers(seed)()%(prime-1) + 1}
 }
 
 // proven is a right question of Check.
@@ -604,7 +596,7 @@ func TestCheckOfChangedPath(t *testing.T) {
 
 // P11.2: questions by chance, of small numbers too, whose right root is asked for, and the one beside it.
 func TestManyQuestions(t *testing.T) {
-	next := numbers(5)
+	next := sample.Numbers(5)
 	for range 100000 {
 		p := proven{count: 1 + next()%api.MaxLeaves, leaf: next() % prime, path: make([]int, next()%8)}
 		p.at = next() % p.count

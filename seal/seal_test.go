@@ -8,6 +8,7 @@ import (
 	"testing"
 
 	"ossuary/api"
+	"ossuary/sample"
 )
 
 var (
@@ -51,27 +52,8 @@ func restOf(n int) int {
 	return int(new(big.Int).Mod(big.NewInt(int64(n)), prime).Int64())
 }
 
-// numbers makes a function that tells number behind number, from 0 to 2^32 - 1, unlike from seed to seed.
-func numbers(seed int) func() int {
-	x := uint64(seed)*2654435761 + 1
-	return func() int {
-		x = x*6364136223846793005 + 1442695040888963407
-		return int(x >> 32)
-	}
-}
-
 // number tells one from 0 below Prime, unlike from seed to seed.
-func number(seed int) int { return numbers(seed)() % api.Prime }
-
-// text makes one of length bytes, unlike from seed to seed.
-func text(seed, length int) string {
-	next := numbers(seed)
-	b := make([]byte, length)
-	for i := range b {
-		b[i] = byte(next())
-	}
-	return string(b)
-}
+func number(seed int) int { return sample.Numbers(seed)() % api.Prime }
 
 // rising is length bytes from 0 on; 255 is followed by 0.
 func rising(length int) string {
@@ -216,7 +198,7 @@ func TestFewBytes(t *testing.T) {
 func TestManyTexts(t *testing.T) {
 	for length := range 400 {
 		for seed := range 3 {
-			s := text(length*3+seed, length)
+			s := sample.Text(length*3+seed, length)
 			wantOf(t, "P9.1: many texts", s, sum(s))
 		}
 	}
@@ -237,7 +219,7 @@ func TestEndsOfBytes(t *testing.T) {
 
 // P9.1: texts that begin with or end in bytes 0 are not those without them.
 func TestZerosAboutTexts(t *testing.T) {
-	for _, s := range []string{"", "a", "bone", "\xff", "\x00\xff\x00", text(1, 61)} {
+	for _, s := range []string{"", "a", "bone", "\xff", "\x00\xff\x00", sample.Text(1, 61)} {
 		seals := map[int]int{}
 		for count := range 100 {
 			zeros := strings.Repeat("\x00", count)
@@ -256,7 +238,7 @@ func TestZerosAboutTexts(t *testing.T) {
 func TestLongTexts(t *testing.T) {
 	for _, length := range []int{api.MaxText - 1, api.MaxText, api.MaxText + 1, 2 * api.MaxText, 1<<16 + 1} {
 		for seed := range 3 {
-			s := text(seed, length)
+			s := sample.Text(seed, length)
 			wantOf(t, "P9.1: long texts", s, sum(s))
 		}
 	}
@@ -277,7 +259,7 @@ func TestBytesNotLetters(t *testing.T) {
 // P9.2: one turned byte of a text, in each place, by each turn, turns the seal.
 func TestEachTurnedByte(t *testing.T) {
 	for _, length := range []int{1, 2, 3, 8, 32, 64, 70} {
-		for _, s := range []string{text(length, length), strings.Repeat("\x00", length), strings.Repeat("\xff", length)} {
+		for _, s := range []string{sample.Text(length, length), strings.Repeat("\x00", length), strings.Repeat("\xff", length)} {
 			seal := Of(s)
 			for at := range length {
 				for by := 1; by < 256; by++ {
@@ -293,7 +275,7 @@ func TestEachTurnedByte(t *testing.T) {
 // P9.2: of two texts that differ in one byte no two have one seal, whatever bytes these are.
 func TestEachByteInOnePlace(t *testing.T) {
 	for _, length := range []int{1, 9, 64, api.MaxText, api.MaxText + 1} {
-		s := text(length, length)
+		s := sample.Text(length, length)
 		for _, at := range []int{0, length / 2, length - 1} {
 			seals := map[int]int{}
 			for by := range 256 {
@@ -309,8 +291,8 @@ func TestEachByteInOnePlace(t *testing.T) {
 
 // P9.2: one turned byte of a text of MaxText bytes, in each place.
 func TestTurnedByteOfMostBytes(t *testing.T) {
-	s := text(9, api.MaxText)
-	seal, next := Of(s), numbers(3)
+	s := sample.Text(9, api.MaxText)
+	seal, next := Of(s), sample.Numbers(3)
 	for at := range len(s) {
 		by := byte(1 + next()%255)
 		if Of(turned(s, at, by)) == seal {
@@ -399,7 +381,7 @@ func TestEdgesOfPairs(t *testing.T) {
 
 // P9.1: numbers from 0 to Prime - 1, and of all sizes, below 0 too.
 func TestManyPairs(t *testing.T) {
-	next := numbers(1)
+	next := sample.Numbers(1)
 	for range 20000 {
 		a, b := next()%api.Prime, next()%api.Prime
 		wantPair(t, "P9.1: many pairs", a, b, pairSum(a, b))
@@ -418,7 +400,7 @@ func TestTurnedPairs(t *testing.T) {
 			wantTold(t, a, b, api.Prime-1)
 		}
 	}
-	next := numbers(2)
+	next := sample.Numbers(2)
 	for range 20000 {
 		wantTold(t, next(), next(), next())
 		wantTold(t, next()<<31, -next()<<31, next())
@@ -440,7 +422,7 @@ func TestTurnedBitsAndSteps(t *testing.T) {
 
 // P9.1: which is the first of both counts, unless they are one modulo Prime.
 func TestOrderOfBothCounts(t *testing.T) {
-	next := numbers(4)
+	next := sample.Numbers(4)
 	all := edges()
 	for range 100 {
 		all = append(all, next(), -next())
@@ -470,11 +452,11 @@ func TestPairsModuloPrime(t *testing.T) {
 // R5: the same again, whatever was asked between.
 func TestAskedAgain(t *testing.T) {
 	for length := range 50 {
-		s := text(length, length)
+		s := sample.Text(length, length)
 		a, b := number(length), -number(length+50)
 		seal, pair := Of(s), Pair(a, b)
 		for other := range 20 {
-			Of(text(other, other*9))
+			Of(sample.Text(other, other*9))
 			Pair(other, math.MinInt+other)
 			wantOf(t, "R5: asked again", s, seal)
 			wantPair(t, "R5: asked again", a, b, pair)
@@ -484,7 +466,7 @@ func TestAskedAgain(t *testing.T) {
 
 // R5: one text is one, wherever its bytes lie.
 func TestTextsWithinTexts(t *testing.T) {
-	long := text(5, 300)
+	long := sample.Text(5, 300)
 	for from := range 100 {
 		for length := range 100 {
 			part := long[from : from+length]
@@ -495,7 +477,7 @@ func TestTextsWithinTexts(t *testing.T) {
 
 // R5: the same from several goroutines at one time.
 func TestAtOneTime(t *testing.T) {
-	s := text(7, api.MaxText)
+	s := sample.Text(7, api.MaxText)
 	seal, pair := sum(s), pairSum(math.MinInt, math.MaxInt)
 	var group sync.WaitGroup
 	for range 8 {

@@ -9,6 +9,7 @@ import (
 	"testing"
 
 	"ossuary/api"
+	"ossuary/sample"
 )
 
 const (
@@ -74,28 +75,9 @@ func powersOf(count int) []int {
 	return powers
 }
 
-// numbers makes a function that tells number behind number, from 0 to 2^32 - 1, unlike from seed to seed.
-func numbers(seed int) func() int {
-	x := uint64(seed)*2654435761 + 1
-	return func() int {
-		x = x*6364136223846793005 + 1442695040888963407
-		return int(x >> 32)
-	}
-}
-
-// text makes one of length bytes, unlike from seed to seed.
-func text(seed, length int) string {
-	next := numbers(seed)
-	b := make([]byte, length)
-	for i := range b {
-		b[i] = byte(next())
-	}
-	return string(b)
-}
-
 // leaves makes count that may be, unlike from seed to seed.
 func leaves(seed, count int) []int {
-	next := numbers(seed)
+	next := sample.Numbers(seed)
 	all := make([]int, count)
 	for i := range all {
 		all[i] = next() % prime
@@ -191,13 +173,13 @@ func TestKnownLeaves(t *testing.T) {
 func TestLeavesOfEachLength(t *testing.T) {
 	for length := range 3*api.Shard + 2 {
 		for seed := range 5 {
-			s := text(length*5+seed, length)
+			s := sample.Text(length*5+seed, length)
 			wantLeaves(t, "P10.1: each length", s, leavesOf(s))
 		}
 	}
 	for blocks := range api.MaxLeaves + 3 {
 		for length := max(8*blocks-1, 0); length <= 8*blocks+1; length++ {
-			s := text(length, length)
+			s := sample.Text(length, length)
 			wantLeaves(t, "P10.1: each number of blocks", s, leavesOf(s))
 		}
 	}
@@ -206,7 +188,7 @@ func TestLeavesOfEachLength(t *testing.T) {
 // P10.1: as many leaves as blocks that are begun, each from 0 below Prime.
 func TestHowManyLeaves(t *testing.T) {
 	for _, row := range [][]int{{1, 1}, {7, 1}, {8, 1}, {9, 2}, {15, 2}, {16, 2}, {17, 3}, {31, 4}, {32, 4}, {33, 5}, {512, 64}, {513, 65}, {4095, 512}, {4096, 512}, {4097, 513}} {
-		got := Leaves(text(row[0], row[0]))
+		got := Leaves(sample.Text(row[0], row[0]))
 		if len(got) != row[1] {
 			t.Errorf("P10.1: %d bytes: %d leaves; want %d", row[0], len(got), row[1])
 		}
@@ -219,7 +201,7 @@ func TestHowManyLeaves(t *testing.T) {
 // P10.1: texts of MaxText bytes and longer; there may be more leaves than Root takes.
 func TestLeavesOfLongTexts(t *testing.T) {
 	for _, length := range []int{api.MaxText - 1, api.MaxText, api.MaxText + 1, 2*api.MaxText + 5, 1<<16 + 1, 1 << 20} {
-		s := text(length, length)
+		s := sample.Text(length, length)
 		wantLeaves(t, "P10.1: long texts", s, leavesOf(s))
 	}
 	length := 1<<24 + 3
@@ -240,7 +222,7 @@ func TestBytesNotLetters(t *testing.T) {
 // P10.1: a turned byte turns the leaf of its block alone.
 func TestTurnedByteTurnsOneLeaf(t *testing.T) {
 	for _, length := range []int{1, 8, 9, 17, api.Shard} {
-		s := text(length, length)
+		s := sample.Text(length, length)
 		as := Leaves(s)
 		for at := range length {
 			for by := 1; by < 256; by++ {
@@ -313,7 +295,7 @@ func TestRootsOfTexts(t *testing.T) {
 	wantRoot(t, "P10.2: a text", Leaves("bone dust"), 1545342701)
 	wantRoot(t, "P10.2: a shard", Leaves("bone dust, ash and dust to bones"), 1564941126)
 	wantForm(t, "P10.2: the empty text", Leaves(""))
-	wantForm(t, "P10.2: a text of more than MaxLeaves blocks", Leaves(text(1, 8*api.MaxLeaves+1)))
+	wantForm(t, "P10.2: a text of more than MaxLeaves blocks", Leaves(sample.Text(1, 8*api.MaxLeaves+1)))
 }
 
 // P10.2: one leaf is its own root.
@@ -410,7 +392,7 @@ func TestTurnedLeafTurnsRoot(t *testing.T) {
 		all := leaves(count, count)
 		root, _ := Root(all)
 		for at, leaf := range all {
-			for _, step := range []int{1, 2, 911, base, 1 << 30, prime - 2, prime - 1, numbers(at)()%(prime-1) + 1} {
+			for _, step := range []int{1, 2, 911, base, 1 << 30, prime - 2, prime - 1, sample.Numbers(at)()%(prime-1) + 1} {
 				turned := with(all, at, (leaf+step)%prime)
 				if got, err := Root(turned); got == root || err != api.OK {
 					t.Fatalf("P10.2: %d leaves, leaf %d turned by %d: %d, %d; before %d", count, at, step, got, err, root)
@@ -532,7 +514,7 @@ func TestHandedInStays(t *testing.T) {
 // R4: what Leaves answers shares no memory, its spare room neither, with another answer, of the same text or of another.
 func TestAnswersApart(t *testing.T) {
 	for _, length := range []int{1, 8, 9, 32, 33, 100, 512} {
-		s, other := text(length, length), text(-length, length)
+		s, other := sample.Text(length, length), sample.Text(-length, length)
 		answer, again, others := Leaves(s), Leaves(s), Leaves(other)
 		whole := answer[:cap(answer)]
 		for at := range whole {
@@ -557,10 +539,10 @@ func TestLeavesNotKept(t *testing.T) {
 // R5: the same again, whatever was asked between.
 func TestAskedAgain(t *testing.T) {
 	for count := 1; count <= api.MaxLeaves; count++ {
-		s, all := text(count, count*7), leaves(count, count)
+		s, all := sample.Text(count, count*7), leaves(count, count)
 		wanted, root := leavesOf(s), rootOf(all)
 		for other := range 20 {
-			Leaves(text(other, other*9))
+			Leaves(sample.Text(other, other*9))
 			Root(leaves(other, other))
 			wantForm(t, "R5: between", with(all, count-1, -1))
 			wantLeaves(t, "R5: asked again", s, wanted)
@@ -581,7 +563,7 @@ func TestLeavesWithinLeaves(t *testing.T) {
 
 // R5: the same from several goroutines at one time, of one text and of one row of leaves.
 func TestAtOneTime(t *testing.T) {
-	s, all := text(7, api.MaxText), leaves(7, api.MaxLeaves)
+	s, all := sample.Text(7, api.MaxText), leaves(7, api.MaxLeaves)
 	wanted, root := leavesOf(s), rootOf(all)
 	var group sync.WaitGroup
 	for range 8 {
